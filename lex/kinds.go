@@ -28,11 +28,11 @@ func (c *scanner) number() (kind, size int) {
 	return api.KNumber, numberSize(c.text[c.at:])
 }
 
-func (c *scanner) char() (kind, size int) {
+func (c *scanner) singleQuoted() (kind, size int) {
 	return api.KChar, c.quoted('\'', &c.oddChars)
 }
 
-func (c *scanner) string() (kind, size int) {
+func (c *scanner) doubleQuoted() (kind, size int) {
 	return api.KString, c.quoted('"', &c.oddStrings)
 }
 

@@ -48,7 +48,7 @@ type scanner struct {
 
 func newScanner(s string) *scanner {
 	c := &scanner{text: s, keys: keySet(), fresh: true}
-	c.tellers = []func() (kind, size int){c.line, c.word, c.number, c.char, c.string, c.sign, c.odd}
+	c.tellers = []func() (kind, size int){c.line, c.word, c.number, c.singleQuoted, c.doubleQuoted, c.sign, c.odd}
 	return c
 }
 
@@ -83,7 +83,7 @@ func (c *scanner) skip() {
 			c.fresh = false
 		case '\\':
 			size = joinSize(rest)
-			c.fresh = true
+			c.fresh = size > 0
 		case '/':
 			size = commentSize(rest)
 			if strings.Contains(rest[:size], "\n") {
