@@ -1,6 +1,7 @@
 package macro
 
 import (
+	"slices"
 	"strings"
 
 	"smocking/api"
@@ -106,8 +107,8 @@ func Find(l []api.Token, name string, at int) (Def, bool) {
 }
 
 func find(l []api.Token, name string, at int) (definition, bool) {
-	for i := min(at, len(l)) - 1; i >= 0; i-- {
-		d, ok := define(l[i])
+	for i, t := range slices.Backward(l[:max(0, min(at, len(l)))]) {
+		d, ok := define(t)
 		if !ok || d.Name != name {
 			continue
 		}

@@ -1,6 +1,7 @@
 package macro_test
 
 import (
+	"math"
 	"math/rand"
 	"reflect"
 	"slices"
@@ -145,14 +146,17 @@ func TestFind(t *testing.T) {
 		at   int
 		ok   bool
 	}{
-		{"A", -1, false}, {"A", -1 << 62, false}, {"A", 1 << 62, true}, {"B", 10, false}, {"B", 11, true}, {"C", 13, false}, {"", 13, false}, {"b", 13, false},
+		{"A", -1, false}, {"A", -1 << 62, false}, {"A", math.MinInt + 1, false}, {"A", math.MinInt, false}, {"", math.MinInt, false},
+		{"A", 1 << 62, true}, {"A", math.MaxInt, true}, {"B", 10, false}, {"B", 11, true}, {"C", 13, false}, {"", 13, false}, {"b", 13, false},
 	} {
-		if got, ok := macro.Find(l, c.name, c.at); ok != c.ok || got.Name != "" != c.ok {
+		if got, ok := macro.Find(l, c.name, c.at); ok != c.ok || got.Name != "" != c.ok || !ok && !sameDef(got, none) {
 			t.Errorf("Find(%q, %d) = %+v, %v", c.name, c.at, got, ok)
 		}
 	}
-	if got, ok := macro.Find(nil, "A", 1); ok || !sameDef(got, none) {
-		t.Errorf("Find of nothing = %+v, %v", got, ok)
+	for _, at := range []int{math.MinInt, -1, 0, 1, math.MaxInt} {
+		if got, ok := macro.Find(nil, "A", at); ok || !sameDef(got, none) {
+			t.Errorf("Find(A, %d) of nothing = %+v, %v", at, got, ok)
+		}
 	}
 }
 

@@ -1,6 +1,7 @@
 package macro_test
 
 import (
+	"math"
 	"math/rand"
 	"slices"
 	"strings"
@@ -70,8 +71,10 @@ func TestExpandErrors(t *testing.T) {
 			t.Errorf("Expand(%q) with %d = %q, %d; want %d", c.line, c.args, got, e, c.want)
 		}
 	}
-	if got, e := macro.Expand(nil, "", nil, 0); got != "" || e != api.ErrNone {
-		t.Errorf("Expand of nothing = %q, %d", got, e)
+	for _, at := range []int{math.MinInt, -1, 0, math.MaxInt} {
+		if got, e := macro.Expand(nil, "", nil, at); got != "" || e != api.ErrNone {
+			t.Errorf("Expand of nothing at %d = %q, %d", at, got, e)
+		}
 	}
 }
 
@@ -85,7 +88,8 @@ func TestExpandAtPlaces(t *testing.T) {
 	}{
 		{-1, nil, "", api.ErrNone}, {0, nil, "", api.ErrNone}, {1, nil, "1", api.OK}, {2, nil, "1", api.OK}, {2, []string{"x"}, "", api.ErrForm},
 		{3, []string{"x"}, "x", api.OK}, {3, nil, "", api.ErrForm}, {4, []string{"x"}, "x", api.OK}, {5, []string{"x"}, "", api.ErrNone},
-		{1 << 62, nil, "", api.ErrNone},
+		{math.MinInt, nil, "", api.ErrNone}, {math.MinInt, []string{"x"}, "", api.ErrNone}, {math.MinInt + 1, nil, "", api.ErrNone},
+		{1 << 62, nil, "", api.ErrNone}, {math.MaxInt, nil, "", api.ErrNone},
 	} {
 		if got, e := macro.Expand(l, "F", c.args, c.at); got != c.want || e != c.e {
 			t.Errorf("Expand(F, %q, %d) = %q, %d; want %q, %d", c.args, c.at, got, e, c.want, c.e)
