@@ -100,8 +100,10 @@ func TestGuessAndCallErrors(t *testing.T) {
 	}{
 		{[]int{0, 1, 3, 4, 5, 6, 7, 8}, 0, api.OK}, {[]int{0, 3, 8}, 1, api.OK}, {[]int{0}, 0, api.OK}, {[]int{0, 8}, 0, api.OK},
 		{[]int{0, 0}, 0, api.ErrForm}, {[]int{1, 0}, 1, api.ErrForm}, {[]int{0, 3, 1}, 0, api.ErrForm}, {[]int{-1, 0}, 1, api.ErrForm},
-		{[]int{0, 9}, 0, api.ErrForm}, {[]int{0, 1 << 62}, 0, api.ErrForm}, {[]int{0, 2, 3}, 0, api.ErrForm}, {[]int{1, 0}, -1, api.ErrForm},
-		{[]int{-5}, 0, api.ErrForm}, {[]int{9}, 1, api.ErrForm},
+		{[]int{0, 9}, 0, api.ErrForm}, {[]int{0, 1 << 62}, 0, api.ErrForm}, {[]int{1, 0}, -1, api.ErrForm},
+		{[]int{-5}, 0, api.ErrForm}, {[]int{9}, 1, api.ErrForm}, {[]int{0, 2, 2}, 0, api.ErrForm}, {[]int{2, 0}, 1, api.ErrForm}, {[]int{2, 9}, 0, api.ErrForm},
+		{[]int{0, 2, 3}, 0, api.OK}, {[]int{0, 2, 3}, 2, api.OK}, {[]int{2, 3}, 1, api.OK}, {[]int{0, 2, 3}, 1, api.ErrNone}, {[]int{2}, 0, api.ErrNone},
+		{[]int{2}, 1, api.ErrRange}, {[]int{2}, -1, api.ErrRange}, {[]int{0, 2, 3}, 3, api.ErrRange},
 		{nil, 0, api.ErrRange}, {[]int{0}, 1, api.ErrRange}, {[]int{0}, -1, api.ErrRange}, {[]int{1}, 1 << 62, api.ErrRange}, {[]int{1}, -1 << 63, api.ErrRange},
 		{[]int{0, 1, 3}, 1, api.ErrNone}, {[]int{4}, 0, api.ErrNone}, {[]int{5}, 0, api.ErrNone}, {[]int{0, 8}, 1, api.ErrNone},
 	} {
@@ -118,6 +120,38 @@ func TestGuessAndCallErrors(t *testing.T) {
 	}
 	if got, e := macro.Call(nil, nil, 0); got != 0 || e != api.ErrRange {
 		t.Errorf("Call of nothing = %d, %d", got, e)
+	}
+}
+
+// TestGuessAmidLines has views with all tokens, directives too, which are none of the things told, whatever their text.
+func TestGuessAmidLines(t *testing.T) {
+	for _, c := range []struct {
+		text   string
+		want   int
+		behind int
+	}{
+		{"X\n#x\n", macro.Value, 1}, {"#x\nX\n", macro.Value, 1}, {"#x\nX int a;", macro.Value, 1}, {"#x\nX(a);", macro.Value, 4}, {"int a;\n#x\nX(a);", macro.Value, 4},
+		{"{ X(a)\n#x\n{", macro.Value, 4}, {"{\n#x\nX(a) {", macro.Value, 4}, {"f()\n#x\nX;", macro.Value, 1}, {"f() X\n#x\n;", macro.Value, 1},
+		{"{ X\n#x\n}", macro.Value, 1}, {"{\n#x\nX }", macro.Value, 1}, {"{ X\n#x\n(a) {", macro.Value, 1}, {"X(a)\n#{\n;", macro.Declarer, 4},
+		{"X(a\n#)\n, b) ;", macro.Declarer, 7}, {"X(a\n#(\n) ;", macro.Declarer, 5}, {"#{\n; X(a);", macro.Declarer, 4}, {"{\n#}\n; X(a) b", macro.Statement, 4},
+		{"{\n#x\n; X(a) {", macro.Loop, 4}, {"f()\n#x\nint a X = 1;", macro.Attribute, 1},
+	} {
+		l := scan(t, c.text)
+		all := make([]int, len(l))
+		bare := slices.Clone(l)
+		for i := range all {
+			all[i] = i
+			bare[i].Text = strings.TrimPrefix(l[i].Text, "#")
+		}
+		k := placeOf(l, all, "X")
+		for _, tokens := range [][]api.Token{l, bare} {
+			if got, e := macro.Guess(tokens, all, k); e != api.OK || got != c.want {
+				t.Errorf("Guess(%v) = %d, %d; want %d", tokens, got, e, c.want)
+			}
+			if got, e := macro.Call(tokens, all, k); e != api.OK || got != k+c.behind {
+				t.Errorf("Call(%v) = %d, %d; want %d", tokens, got, e, k+c.behind)
+			}
+		}
 	}
 }
 
@@ -239,7 +273,7 @@ func TestGuessAsSaid(t *testing.T) {
 
 var somePieces = strings.Fields("FOO BAR foo ( ) ( ) ( ) { } { } ; ; , = * ++ if else do while int static x : [ ] 1 \"s\" return F(a) G()")
 
-// someView makes a text with branches and comments, and a choice of its tokens.
+// someView makes a text with branches and comments, and a choice of its tokens, now and then with directives among them.
 func someView(t *testing.T, r *rand.Rand) ([]api.Token, []int) {
 	text := ""
 	for range r.Intn(40) {
@@ -247,9 +281,10 @@ func someView(t *testing.T, r *rand.Rand) ([]api.Token, []int) {
 		text += somePieces[r.Intn(len(somePieces))]
 	}
 	l := scan(t, text)
+	withLines := r.Intn(4) == 0
 	var view []int
 	for i, x := range l {
-		if x.Kind != api.KLine && r.Intn(12) > 0 {
+		if (x.Kind != api.KLine || withLines) && r.Intn(12) > 0 {
 			view = append(view, i)
 		}
 	}

@@ -26,11 +26,12 @@ func look(l []api.Token, view []int, k int) (scene, api.Errno) {
 	return scene{l, view}, api.OK
 }
 
-// isView tells whether a list is ascending places of tokens, none of them a directive.
+// isView tells whether a list is ascending places of tokens. Layer cond puts no directives among them, but one that is
+// there is no error: it is a token like others, and none of the things told.
 func isView(l []api.Token, view []int) bool {
 	last := -1
 	for _, at := range view {
-		if at <= last || at >= len(l) || l[at].Kind == api.KLine {
+		if at <= last || at >= len(l) {
 			return false
 		}
 		last = at

@@ -1,6 +1,7 @@
 package macro_test
 
 import (
+	"math"
 	"math/rand"
 	"slices"
 	"strings"
@@ -43,13 +44,26 @@ func TestUnknown(t *testing.T) {
 
 func TestUnknownErrors(t *testing.T) {
 	l := scan(t, "{ A }\n#define B\n")
-	for _, view := range [][]int{{0, 2, 1}, {1, 1}, {-1, 0, 1, 2}, {0, 1, 2, 5}, {0, 1, 2, 3}, {3}, {1 << 62}} {
+	for _, view := range [][]int{{0, 2, 1}, {1, 1}, {-1, 0, 1, 2}, {0, 1, 2, 5}, {0, 1, 3, 2}, {3, 3}, {-1, 3}, {5}, {1 << 62}, {math.MinInt}, {math.MaxInt}} {
 		if got, e := macro.Unknown(l, view); len(got) > 0 || e != api.ErrForm {
 			t.Errorf("Unknown(%v) = %q, %d", view, got, e)
 		}
 	}
-	if got, e := macro.Unknown(l, []int{0, 1, 2, 4}); !slices.Equal(got, []string{"A"}) || e != api.OK {
-		t.Errorf("Unknown = %q, %d", got, e)
+}
+
+// TestUnknownAmidLines has directives in views, which are no error, and stand between what is around them.
+func TestUnknownAmidLines(t *testing.T) {
+	l := scan(t, "{ A }\n#define B\n; B int a; } C\n#x\n(a);")
+	for _, c := range []struct {
+		view []int
+		want []string
+	}{
+		{[]int{0, 1, 2, 4}, []string{"A"}}, {[]int{0, 1, 2, 3}, []string{"A"}}, {[]int{0, 1, 3}, nil}, {[]int{0, 1, 3, 4}, nil}, {[]int{3}, nil}, {[]int{3, 5, 6}, nil},
+		{[]int{5, 6, 7}, nil}, {[]int{9, 10, 12, 13, 14, 15}, []string{"C"}}, {[]int{9, 10, 11, 12, 13, 14, 15}, nil}, {[]int{11, 12, 13, 14, 15}, nil},
+	} {
+		if got, e := macro.Unknown(l, c.view); !slices.Equal(got, c.want) || e != api.OK {
+			t.Errorf("Unknown(%v) = %q, %d; want %q", c.view, got, e, c.want)
+		}
 	}
 }
 
