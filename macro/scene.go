@@ -101,11 +101,14 @@ func (s scene) isOutermost(k int) bool {
 
 // countOpen returns how many opening signs are open behind a token, from how many there are before it.
 func countOpen(open int, t api.Token, opening, closing string) int {
-	if isOneOf(t, opening) {
-		return open + 1
+	if t.Kind != api.KSign {
+		return open
 	}
-	if isOneOf(t, closing) && open > 0 {
-		return open - 1
+	switch t.Text {
+	case opening:
+		return open + 1
+	case closing:
+		return max(0, open-1)
 	}
 	return open
 }
