@@ -310,10 +310,9 @@ func (m *maker) initializer() api.Node {
 func (m *maker) declaration(hasWords, mayBeSet bool) api.Node {
 	from := m.place()
 	words := m.declarationWords(hasWords)
-	begin := m.place()
 	kind := m.anyKind(false)
 	if hasWords {
-		words = m.moveWords(words, begin, &kind)
+		words = m.moveWords(words, &kind)
 	}
 	parts := []api.Node{kind, m.declared(mayBeSet)}
 	for m.chance(3) {
@@ -335,7 +334,7 @@ func (m *maker) declarationWords(hasWords bool) []string {
 }
 
 // moveWords gives the words what stands at the beginning of a type behind them, as they take all they can.
-func (m *maker) moveWords(words []string, begin int, kind *api.Node) []string {
+func (m *maker) moveWords(words []string, kind *api.Node) []string {
 	for m.words[kind.From] == "const" || m.words[kind.From] == "volatile" {
 		words = append(words, m.words[kind.From])
 		kind.From++
@@ -642,9 +641,8 @@ func (m *maker) function() api.Node {
 	m.export()
 	from := m.place()
 	words := m.declarationWords(true)
-	begin := m.place()
 	kind := m.anyKind(true)
-	words = m.moveWords(words, begin, &kind)
+	words = m.moveWords(words, &kind)
 	parts := []api.Node{kind, m.leaf(api.EName, m.one("f g"))}
 	m.put("(")
 	parts = append(parts, m.params()...)
