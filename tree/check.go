@@ -15,7 +15,7 @@ func Check(l []api.Token, n api.Node) api.Errno {
 			return api.ErrLimit
 		}
 	}
-	if !inTokens(l, n) || !hasPartsInside(l, n) {
+	if !inTokens(l, n) || !hasPartsInside(n) {
 		return api.ErrForm
 	}
 	return api.OK
@@ -26,24 +26,16 @@ func inTokens(l []api.Token, n api.Node) bool {
 	return 0 <= n.From && n.From <= n.To && n.To <= len(l)
 }
 
-// hasPartsInside tells of a node in the tokens whether its parts lie in it, in order and apart, and so theirs in them.
-func hasPartsInside(l []api.Token, n api.Node) bool {
+// hasPartsInside tells whether a node's parts lie in it, in order and apart, and so theirs in them. This is asked of
+// parts without tokens, too: Parse has such a part behind its node where what is not seen stands between a label and a
+// closing brace, and this tree is not valid.
+func hasPartsInside(n api.Node) bool {
 	behind := n.From
 	for _, part := range n.L {
-		if part.From < behind || !inTokens(l, part) || !endsIn(l, part, n) || !hasPartsInside(l, part) {
+		if part.From < behind || part.From > part.To || part.To > n.To || !hasPartsInside(part) {
 			return false
 		}
 		behind = part.To
 	}
 	return true
-}
-
-// endsIn tells whether a part goes no further than its node. A part without tokens is at the place of the next seen
-// token: where a directive follows its node, this is behind both, though nothing of the part is (x: ahead of #endif and
-// a closing brace).
-func endsIn(l []api.Token, part, n api.Node) bool {
-	if part.To <= n.To {
-		return true
-	}
-	return part.From == part.To && l[n.To].Kind == api.KLine
 }

@@ -17,6 +17,15 @@ func names(count int) []api.Token {
 	return l
 }
 
+// lines are as many directives.
+func lines(count int) []api.Token {
+	l := make([]api.Token, count)
+	for i := range l {
+		l[i] = api.Token{Kind: api.KLine, Text: "#a"}
+	}
+	return l
+}
+
 func TestCheck(t *testing.T) {
 	l := names(5)
 	for _, c := range []struct {
@@ -51,7 +60,13 @@ func TestCheck(t *testing.T) {
 	}
 }
 
-// TestCheckOfAllSmallTrees holds Check against the chapter's sentence for all places of a node with two parts.
+// lies tells whether a node lies in another one.
+func lies(x, around api.Node) bool {
+	return around.From <= x.From && x.From <= x.To && x.To <= around.To
+}
+
+// TestCheckOfAllSmallTrees holds Check against the chapter's sentence for all places of a node with two parts, and of
+// one whose part has a part; what tokens there are does not count.
 func TestCheckOfAllSmallTrees(t *testing.T) {
 	var all []api.Node
 	for from := -1; from < 5; from++ {
@@ -59,21 +74,25 @@ func TestCheckOfAllSmallTrees(t *testing.T) {
 			all = append(all, placed(from, to))
 		}
 	}
-	l := names(3)
-	inside := func(x, around api.Node) bool {
-		return around.From <= x.From && x.From <= x.To && x.To <= around.To
+	const tokens = 3
+	check := func(n api.Node, isValid bool) {
+		want := api.ErrForm
+		if isValid {
+			want = api.OK
+		}
+		for _, l := range [][]api.Token{names(tokens), lines(tokens)} {
+			if got := tree.Check(l, n); got != want {
+				t.Fatalf("Check of %s over %v = %d; want %d", show(n), l, got, want)
+			}
+		}
 	}
-	whole := placed(0, len(l))
+	whole := placed(0, tokens)
 	for _, n := range all {
 		for _, a := range all {
 			for _, b := range all {
-				want := api.ErrForm
-				if inside(n, whole) && inside(a, n) && inside(b, n) && a.To <= b.From {
-					want = api.OK
-				}
-				if got := tree.Check(l, placed(n.From, n.To, a, b)); got != want {
-					t.Fatalf("Check(%s) = %d; want %d", show(placed(n.From, n.To, a, b)), got, want)
-				}
+				isIn := lies(n, whole) && lies(a, n)
+				check(placed(n.From, n.To, a, b), isIn && lies(b, n) && a.To <= b.From)
+				check(placed(n.From, n.To, placed(a.From, a.To, b)), isIn && lies(b, a))
 			}
 		}
 	}
@@ -104,38 +123,92 @@ func TestCheckLimits(t *testing.T) {
 	}
 }
 
-// TestFilesAreValid checks trees of texts, also those in which a directive stands between a label and what it is of.
+// hasAllInside tells whether each part of a tree lies in its node.
+func hasAllInside(n api.Node) bool {
+	for _, path := range tree.Paths(n, 0) {
+		if len(path) == 0 {
+			continue
+		}
+		part, _ := tree.At(n, path)
+		around, _ := tree.At(n, path[:len(path)-1])
+		if !lies(part, around) {
+			return false
+		}
+	}
+	return true
+}
+
+// checkFile asks for a file's tree, and returns whether it is valid. Parts that Parse makes are in order and apart, so
+// it is if they all lie in their nodes.
+func checkFile(t *testing.T, s string, l []api.Token, root api.Node) bool {
+	t.Helper()
+	isValid := hasAllInside(root)
+	want := api.OK
+	if !isValid {
+		want = api.ErrForm
+	}
+	if e := tree.Check(l, root); e != want {
+		t.Fatalf("Check of %q: %d; want %d: %s", s, e, want, show(root))
+	}
+	return isValid
+}
+
+// TestFilesAreValid checks trees of texts. Those with a directive between a label and a closing brace have a part
+// behind its node.
 func TestFilesAreValid(t *testing.T) {
+	valid, others := 0, 0
 	eachFile(t, func(s string, l []api.Token, view []int, root api.Node) {
-		if e := tree.Check(l, root); e != api.OK {
-			t.Fatalf("Check of %q: %d: %s", s, e, show(root))
+		if checkFile(t, s, l, root) {
+			valid++
+		} else {
+			others++
 		}
 	})
-	for _, s := range []string{"", "#a\n", "int f(){x:}", "int f(){x:\n#a\n}", "int f(){if(a)x:y:default:\n#if A\n#else\nb;\n#endif\n// c\n}", "int f(){for(\n#a\n;\n#a\n;\n#a\n)\n#a\n;}"} {
-		l, _, root := file(t, s)
-		if e := tree.Check(l, root); e != api.OK {
-			t.Errorf("Check of %q: %d: %s", s, e, show(root))
+	if valid < 5000 || others < 30 {
+		t.Errorf("only %d trees are valid, %d are not", valid, others)
+	}
+	for _, c := range []struct {
+		s       string
+		isValid bool
+	}{
+		{"", true}, {"#a\n", true}, {"int f(){x:}", true}, {"int f(){x:/* a */\n}", true}, {"int f(){x:;\n#a\n}", true}, {"int f(){x:\n#a\n;}", true}, {"int f(){\n#a\nx:}", true},
+		{"int f(){for(\n#a\n;\n#a\n;\n#a\n)\n#a\n;}", true}, {"int a[\n#a\n];", true}, {"int f(){x:\n#a\n}", false}, {"int f(){case 1:\n#a\n}", false}, {"int f(){if(a)x:y:default:\n#if A\n#else\nb;\n#endif\n// c\n}", false},
+		{"int f(){x:\n#if A\n#else\nb;\n#endif\n}", false},
+	} {
+		l, _, root := file(t, c.s)
+		if root.L != nil && root.L[0].Op == api.ORaw {
+			t.Fatalf("%q cannot be read", c.s)
+		}
+		if got := checkFile(t, c.s, l, root); got != c.isValid {
+			t.Errorf("%q: valid is %v: %s", c.s, got, show(root))
 		}
 	}
 }
 
-// TestPartsBehindDirectives has trees over tokens of which one is a directive.
+// TestPartsBehindDirectives has trees over tokens of which one is a directive: it makes no difference.
 func TestPartsBehindDirectives(t *testing.T) {
 	l := names(6)
-	l[3] = api.Token{Kind: api.KLine, Text: "#a"}
+	l[3] = lines(1)[0]
 	for _, c := range []struct {
 		name string
 		n    api.Node
 		want api.Errno
 	}{
-		{"a part without tokens behind the directive", placed(0, 6, placed(1, 3, placed(4, 4))), api.OK}, {"one at the end", placed(0, 3, placed(6, 6)), api.OK}, {"one beyond the end", placed(0, 3, placed(7, 7)), api.ErrForm},
+		{"a part without tokens at the directive", placed(0, 6, placed(1, 3, placed(3, 3))), api.OK}, {"one behind the directive that its node has", placed(0, 6, placed(1, 4, placed(4, 4))), api.OK},
+		{"parts without tokens on both sides", placed(0, 6, placed(3, 4, placed(3, 3), placed(4, 4))), api.OK}, {"a next node behind it", placed(0, 6, placed(1, 3, placed(3, 3)), placed(4, 5)), api.OK},
+		{"a part without tokens behind the directive", placed(0, 6, placed(1, 3, placed(4, 4))), api.ErrForm}, {"one at the end", placed(0, 3, placed(6, 6)), api.ErrForm}, {"one beyond the end", placed(0, 3, placed(7, 7)), api.ErrForm},
+		{"one far behind the directive", placed(0, 6, placed(1, 3, placed(5, 5))), api.ErrForm}, {"one of a node without tokens", placed(0, 6, placed(3, 3, placed(4, 4))), api.ErrForm},
+		{"one behind two nodes", placed(0, 6, placed(1, 3, placed(2, 3, placed(4, 4)))), api.ErrForm}, {"one behind another part", placed(0, 6, placed(1, 3, placed(1, 3), placed(4, 4))), api.ErrForm},
 		{"one behind a node ahead of the directive", placed(0, 6, placed(1, 2, placed(4, 4))), api.ErrForm}, {"one behind a node behind the directive", placed(0, 6, placed(3, 4, placed(5, 5))), api.ErrForm},
 		{"a part with tokens", placed(0, 6, placed(1, 3, placed(4, 5))), api.ErrForm}, {"a part with the directive", placed(0, 6, placed(1, 3, placed(3, 4))), api.ErrForm},
 		{"one whose From is behind its To", placed(0, 6, placed(1, 3, placed(5, 4))), api.ErrForm}, {"another part behind it", placed(0, 6, placed(1, 3, placed(4, 4), placed(2, 3))), api.ErrForm},
-		{"a next node before it", placed(0, 6, placed(1, 3, placed(4, 4)), placed(4, 5)), api.OK},
+		{"a next node at its place", placed(0, 6, placed(1, 3, placed(4, 4)), placed(4, 5)), api.ErrForm},
 	} {
 		if got := tree.Check(l, c.n); got != c.want {
 			t.Errorf("%s: Check(%s) = %d; want %d", c.name, show(c.n), got, c.want)
 		}
+	}
+	if got := tree.Check(lines(1), placed(0, 0, placed(1, 1))); got != api.ErrForm {
+		t.Errorf("Check of a part behind the only token = %d", got)
 	}
 }

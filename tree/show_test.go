@@ -167,9 +167,7 @@ func FuzzTree(f *testing.F) {
 		if e != api.OK || len(l) > 300 {
 			return
 		}
-		if e := tree.Check(l, root); e != api.OK {
-			t.Fatalf("Check of %q: %d: %s", s, e, show(root))
-		}
+		checkFile(t, s, l, root)
 		checkTexts(t, s, l, root)
 		if plain := tree.Plain(root); !tree.Alike(root, plain) || tree.Size(plain) > tree.Size(root) {
 			t.Fatalf("Plain of %q: %s", s, show(plain))
